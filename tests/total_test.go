@@ -1,0 +1,181 @@
+package tests
+
+import (
+	"reflect"
+	"slices"
+	"strings"
+	"testing"
+
+	"loop.example/g01164/impl"
+)
+
+// Each function of the chapters that have landed; issues to come add theirs.
+var functions = map[string]any{
+	"IsWord":       impl.IsWord,
+	"IsSet":        impl.IsSet,
+	"SetOf":        impl.SetOf,
+	"Begins":       impl.Begins,
+	"Ends":         impl.Ends,
+	"CountIn":      impl.CountIn,
+	"LettersOf":    impl.LettersOf,
+	"LessWord":     impl.LessWord,
+	"Concat":       impl.Concat,
+	"ReverseSet":   impl.ReverseSet,
+	"RenameSet":    impl.RenameSet,
+	"JoinSets":     impl.JoinSets,
+	"WithoutWord":  impl.WithoutWord,
+	"LeftQuotient": impl.LeftQuotient,
+	"LengthsOf":    impl.LengthsOf,
+	"BordersOf":    impl.BordersOf,
+	"SetText":      impl.SetText,
+	"ParseSet":     impl.ParseSet,
+}
+
+const spare = 3
+
+// roomy returns a copy with marked room behind its end, which no function may touch or hand out.
+func roomy[T any](values []T, mark T) []T {
+	room := slices.Clone(values)
+	for range spare {
+		room = append(room, mark)
+	}
+	return room[:len(values)]
+}
+
+// poolOf lists fresh arguments of a type: valid ones, limits met and exceeded, and nonsense.
+func poolOf(t *testing.T, kind reflect.Type) []reflect.Value {
+	var pool []any
+	switch kind {
+	case reflect.TypeFor[string]():
+		for _, s := range append(noWordTexts, "", "a", "abaab", "a,b,ab", "-", ",", "b,a", strings.Repeat("abc", 20), strings.Repeat(",", 1000)) {
+			pool = append(pool, s)
+		}
+	case reflect.TypeFor[int]():
+		for _, n := range []int{-1 << 63, -1, 0, 1, 2, 3, 8, 9, 12, 13, 40, 41, 60, 61, 1<<63 - 1} {
+			pool = append(pool, n)
+		}
+	case reflect.TypeFor[[]string]():
+		for _, l := range append(noSets, nil, list("a"), list("a b ab"), list("ab a b a"), list("aa ab ba"), twelve(), slices.Repeat(list("b a"), 20), make([]string, 60)) {
+			pool = append(pool, roomy(l, "MARK"))
+		}
+	case reflect.TypeFor[[]int]():
+		for _, l := range [][]int{nil, {0}, {0, 1, 2}, {2, 0, 1}, {2, 1, 0}, {0, 1, 3}, {-1, 0, 1}, {0, 0, 0}, {-1 << 63, 1<<63 - 1, 0}, make([]int, 100)} {
+			pool = append(pool, roomy(l, -77))
+		}
+	default:
+		t.Fatalf("no arguments of type %v", kind)
+	}
+	values := make([]reflect.Value, len(pool))
+	for i, v := range pool {
+		values[i] = reflect.ValueOf(v)
+	}
+	return values
+}
+
+// whole shows a value with the room behind it.
+func whole(v reflect.Value) any {
+	if v.Kind() == reflect.Slice {
+		v = v.Slice(0, v.Cap())
+		kept := reflect.MakeSlice(v.Type(), v.Len(), v.Len())
+		reflect.Copy(kept, v)
+		v = kept
+	}
+	return v.Interface()
+}
+
+// scribble overwrites a slice and all room behind it.
+func scribble(v reflect.Value) {
+	if v.Kind() != reflect.Slice {
+		return
+	}
+	v = v.Slice(0, v.Cap())
+	for i := range v.Len() {
+		if v.Index(i).Kind() == reflect.Slice {
+			scribble(v.Index(i))
+		} else if v.Index(i).Kind() == reflect.String {
+			v.Index(i).SetString("SCRIBBLE")
+		} else {
+			v.Index(i).SetZero()
+		}
+	}
+}
+
+func everyChoice(pools [][]reflect.Value, use func([]reflect.Value)) {
+	chosen := make([]reflect.Value, len(pools))
+	var choose func(int)
+	choose = func(k int) {
+		if k == len(pools) {
+			use(chosen)
+			return
+		}
+		for _, v := range pools[k] {
+			chosen[k] = v
+			choose(k + 1)
+		}
+	}
+	choose(0)
+}
+
+func checkCall(t *testing.T, name string, f reflect.Value, args []reflect.Value) {
+	defer func() {
+		if r := recover(); r != nil {
+			t.Errorf("%s panics: %v", name, r)
+		}
+	}()
+	var before []any
+	for _, a := range args {
+		before = append(before, whole(a))
+	}
+	results := f.Call(args)
+	checkKept(t, name, args, before)
+	checkZeroIfFailed(t, name, results)
+	again := f.Call(args)
+	for i := range results {
+		if !reflect.DeepEqual(results[i].Interface(), again[i].Interface()) {
+			t.Errorf("%s: two equal calls differ", name)
+		}
+		scribble(results[i])
+	}
+	checkKept(t, name, args, before)
+}
+
+// Called before and after the results were overwritten, so that memory that they share with arguments shows.
+func checkKept(t *testing.T, name string, args []reflect.Value, before []any) {
+	for i, a := range args {
+		if !reflect.DeepEqual(whole(a), before[i]) {
+			t.Fatalf("%s changes argument %d: %v became %v", name, i, before[i], whole(a))
+		}
+	}
+}
+
+func checkZeroIfFailed(t *testing.T, name string, results []reflect.Value) {
+	last := results[len(results)-1]
+	if len(results) == 1 || last.Bool() {
+		return
+	}
+	for _, r := range results[:len(results)-1] {
+		if !r.IsZero() && !(r.Kind() == reflect.Slice && r.Len() == 0) {
+			t.Errorf("%s fails with %v", name, r)
+		}
+	}
+}
+
+func TestEveryFunctionAcceptsAllArguments(t *testing.T) {
+	for name, f := range functions {
+		v := reflect.ValueOf(f)
+		var pools [][]reflect.Value
+		for i := range v.Type().NumIn() {
+			pools = append(pools, poolOf(t, v.Type().In(i)))
+		}
+		everyChoice(pools, func(args []reflect.Value) { checkCall(t, name, v, args) })
+	}
+}
+
+// Both arguments may be one and the same slice.
+func TestEveryFunctionAcceptsOneListTwice(t *testing.T) {
+	for _, v := range poolOf(t, reflect.TypeFor[[]string]()) {
+		for name, f := range map[string]any{"JoinSets": impl.JoinSets, "LeftQuotient": impl.LeftQuotient} {
+			checkCall(t, name, reflect.ValueOf(f), []reflect.Value{v, v})
+		}
+	}
+}
