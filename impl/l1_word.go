@@ -219,12 +219,8 @@ func WithoutWord(set []string, i int) ([]string, bool) {
 	return slices.Concat(set[:i], set[i+1:]), true
 }
 
-// LeftQuotient returns the words that are left, not empty ones, if some word of a is taken away at the beginning of a word of b, each once, in order.
-// The document calls them words and not a set, so they may be more than MaxSet.
-func LeftQuotient(a []string, b []string) ([]string, bool) {
-	if !IsSet(a) || !IsSet(b) {
-		return nil, false
-	}
+// restsOf returns what is left, not empty, if some word of a is taken away at the beginning of a word of b.
+func restsOf(a []string, b []string) []string {
 	var rests []string
 	for _, s := range a {
 		for _, t := range b {
@@ -233,7 +229,16 @@ func LeftQuotient(a []string, b []string) ([]string, bool) {
 			}
 		}
 	}
-	return inOrder(rests), true
+	return rests
+}
+
+// LeftQuotient returns the words that are left, not empty ones, if some word of a is taken away at the beginning of a word of b, each once, in order.
+// The document calls them words and not a set, so they may be more than MaxSet.
+func LeftQuotient(a []string, b []string) ([]string, bool) {
+	if !IsSet(a) || !IsSet(b) {
+		return nil, false
+	}
+	return inOrder(restsOf(a, b)), true
 }
 
 // LengthsOf returns the lengths of all words of a set, in order.

@@ -29,6 +29,21 @@ var functions = map[string]any{
 	"BordersOf":    impl.BordersOf,
 	"SetText":      impl.SetText,
 	"ParseSet":     impl.ParseSet,
+
+	"DanglingOf":     impl.DanglingOf,
+	"IsCode":         impl.IsCode,
+	"ShortestDouble": impl.ShortestDouble,
+	"TwoReadings":    impl.TwoReadings,
+	"CountReadings":  impl.CountReadings,
+	"CanRead":        impl.CanRead,
+	"ReadWord":       impl.ReadWord,
+	"AllReadings":    impl.AllReadings,
+	"WriteMessage":   impl.WriteMessage,
+	"CountWritten":   impl.CountWritten,
+	"CountMessages":  impl.CountMessages,
+	"GreatestCode":   impl.GreatestCode,
+	"FirstRefused":   impl.FirstRefused,
+	"IsUniquelyRead": impl.IsUniquelyRead,
 }
 
 const spare = 3
@@ -47,19 +62,19 @@ func poolOf(t *testing.T, kind reflect.Type) []reflect.Value {
 	var pool []any
 	switch kind {
 	case reflect.TypeFor[string]():
-		for _, s := range append(noWordTexts, "", "a", "abaab", "a,b,ab", "-", ",", "b,a", strings.Repeat("abc", 20), strings.Repeat(",", 1000)) {
+		for _, s := range append(noWordTexts, "", "a", "abaab", "a,b,ab", "-", ",", "b,a", "aba", "aaaa", strings.Repeat("a", 60), strings.Repeat("abc", 20), strings.Repeat(",", 1000)) {
 			pool = append(pool, s)
 		}
 	case reflect.TypeFor[int]():
-		for _, n := range []int{-1 << 63, -1, 0, 1, 2, 3, 8, 9, 12, 13, 40, 41, 60, 61, 1<<63 - 1} {
+		for _, n := range []int{-1 << 63, -1, 0, 1, 2, 3, 8, 9, 10, 12, 13, 20, 21, 40, 41, 60, 61, 1<<63 - 1} {
 			pool = append(pool, n)
 		}
 	case reflect.TypeFor[[]string]():
-		for _, l := range append(noSets, nil, list("a"), list("a b ab"), list("ab a b a"), list("aa ab ba"), twelve(), slices.Repeat(list("b a"), 20), make([]string, 60)) {
+		for _, l := range append(noSets, nil, list("a"), list("a b ab"), list("ab a b a"), list("aa ab ba"), list("a ab ba"), list("a ab bb"), list("a aa aaa aaaa"), twelve(), slices.Repeat(list("b a"), 20), make([]string, 60)) {
 			pool = append(pool, roomy(l, "MARK"))
 		}
 	case reflect.TypeFor[[]int]():
-		for _, l := range [][]int{nil, {0}, {0, 1, 2}, {2, 0, 1}, {2, 1, 0}, {0, 1, 3}, {-1, 0, 1}, {0, 0, 0}, {-1 << 63, 1<<63 - 1, 0}, make([]int, 100)} {
+		for _, l := range [][]int{nil, {0}, {0, 1, 2}, {2, 0, 1}, {2, 1, 0}, {0, 1, 3}, {-1, 0, 1}, {0, 0, 0}, {0, 2}, {1, 0}, {12}, {-1 << 63, 1<<63 - 1, 0}, make([]int, 60), make([]int, 61), make([]int, 100)} {
 			pool = append(pool, roomy(l, -77))
 		}
 	default:
@@ -129,6 +144,7 @@ func checkCall(t *testing.T, name string, f reflect.Value, args []reflect.Value)
 	results := f.Call(args)
 	checkKept(t, name, args, before)
 	checkZeroIfFailed(t, name, results)
+	checkApart(t, name, results)
 	again := f.Call(args)
 	for i := range results {
 		if !reflect.DeepEqual(results[i].Interface(), again[i].Interface()) {
@@ -156,6 +172,36 @@ func checkZeroIfFailed(t *testing.T, name string, results []reflect.Value) {
 	for _, r := range results[:len(results)-1] {
 		if !r.IsZero() && !(r.Kind() == reflect.Slice && r.Len() == 0) {
 			t.Errorf("%s fails with %v", name, r)
+		}
+	}
+}
+
+// slicesIn lists all slices of a value, with the room behind them.
+func slicesIn(v reflect.Value) []reflect.Value {
+	if v.Kind() != reflect.Slice {
+		return nil
+	}
+	v = v.Slice(0, v.Cap())
+	found := []reflect.Value{v}
+	for i := range v.Len() {
+		found = append(found, slicesIn(v.Index(i))...)
+	}
+	return found
+}
+
+// checkApart fails if two slices of a result share memory: one of both then begins within the other one.
+func checkApart(t *testing.T, name string, results []reflect.Value) {
+	var all []reflect.Value
+	for _, r := range results {
+		all = append(all, slicesIn(r)...)
+	}
+	for i, v := range all {
+		for j, w := range all {
+			begin := v.Pointer()
+			end := begin + uintptr(v.Len())*v.Type().Elem().Size()
+			if i != j && w.Len() > 0 && begin <= w.Pointer() && w.Pointer() < end {
+				t.Fatalf("%s: two slices of the result share memory", name)
+			}
 		}
 	}
 }
