@@ -44,6 +44,21 @@ var functions = map[string]any{
 	"GreatestCode":   impl.GreatestCode,
 	"FirstRefused":   impl.FirstRefused,
 	"IsUniquelyRead": impl.IsUniquelyRead,
+
+	"KraftSum":        impl.KraftSum,
+	"SumOfLengths":    impl.SumOfLengths,
+	"CanBePrefix":     impl.CanBePrefix,
+	"FirstPrefixCode": impl.FirstPrefixCode,
+	"RoomLeft":        impl.RoomLeft,
+	"IsPrefixSet":     impl.IsPrefixSet,
+	"IsSuffixSet":     impl.IsSuffixSet,
+	"FillPrefix":      impl.FillPrefix,
+	"IsMaximalPrefix": impl.IsMaximalPrefix,
+	"SumsOfPowers":    impl.SumsOfPowers,
+	"FirstMissing":    impl.FirstMissing,
+	"IsCompleteSet":   impl.IsCompleteSet,
+	"CountLengths":    impl.CountLengths,
+	"AllLengths":      impl.AllLengths,
 }
 
 const spare = 3
@@ -70,11 +85,11 @@ func poolOf(t *testing.T, kind reflect.Type) []reflect.Value {
 			pool = append(pool, n)
 		}
 	case reflect.TypeFor[[]string]():
-		for _, l := range append(noSets, nil, list("a"), list("a b ab"), list("ab a b a"), list("aa ab ba"), list("a ab ba"), list("a ab bb"), list("a aa aaa aaaa"), twelve(), slices.Repeat(list("b a"), 20), make([]string, 60)) {
+		for _, l := range append(noSets, nil, list("a"), list("a b ab"), list("ab a b a"), list("aa ab ba"), list("a ab ba"), list("a ab bb"), list("a ba bba"), list("a b c"), list("a aa aaa aaaa"), twelve(), slices.Repeat(list("b a"), 20), make([]string, 60)) {
 			pool = append(pool, roomy(l, "MARK"))
 		}
 	case reflect.TypeFor[[]int]():
-		for _, l := range [][]int{nil, {0}, {0, 1, 2}, {2, 0, 1}, {2, 1, 0}, {0, 1, 3}, {-1, 0, 1}, {0, 0, 0}, {0, 2}, {1, 0}, {12}, {-1 << 63, 1<<63 - 1, 0}, make([]int, 60), make([]int, 61), make([]int, 100)} {
+		for _, l := range [][]int{nil, {0}, {0, 1, 2}, {2, 0, 1}, {2, 1, 0}, {0, 1, 3}, {-1, 0, 1}, {0, 0, 0}, {0, 2}, {1, 0}, {12}, {1}, {1, 1}, {1, 2, 3}, {1, 2, 3, 4, 5, 6, 7, 8, 8, 8}, {3, 2, 1}, {9}, slices.Repeat([]int{8}, 12), slices.Repeat([]int{8}, 13), {-1 << 63, 1<<63 - 1, 0}, make([]int, 60), make([]int, 61), make([]int, 100)} {
 			pool = append(pool, roomy(l, -77))
 		}
 	default:
