@@ -59,6 +59,18 @@ var functions = map[string]any{
 	"IsCompleteSet":   impl.IsCompleteSet,
 	"CountLengths":    impl.CountLengths,
 	"AllLengths":      impl.AllLengths,
+
+	"InnerWords":          impl.InnerWords,
+	"ReplaceLetters":      impl.ReplaceLetters,
+	"FactorOver":          impl.FactorOver,
+	"PutBehind":           impl.PutBehind,
+	"IsTwoSided":          impl.IsTwoSided,
+	"IsPartFree":          impl.IsPartFree,
+	"LevelsOf":            impl.LevelsOf,
+	"ReadFromLeft":        impl.ReadFromLeft,
+	"CountCompletePrefix": impl.CountCompletePrefix,
+	"AllCompletePrefix":   impl.AllCompletePrefix,
+	"ShrinkPrefix":        impl.ShrinkPrefix,
 }
 
 const spare = 3
@@ -81,11 +93,11 @@ func poolOf(t *testing.T, kind reflect.Type) []reflect.Value {
 			pool = append(pool, s)
 		}
 	case reflect.TypeFor[int]():
-		for _, n := range []int{-1 << 63, -1, 0, 1, 2, 3, 8, 9, 10, 12, 13, 20, 21, 40, 41, 60, 61, 1<<63 - 1} {
+		for _, n := range []int{-1 << 63, -1, 0, 1, 2, 3, 6, 7, 8, 9, 10, 12, 13, 20, 21, 40, 41, 60, 61, 1<<63 - 1} {
 			pool = append(pool, n)
 		}
 	case reflect.TypeFor[[]string]():
-		for _, l := range append(noSets, nil, list("a"), list("a b ab"), list("ab a b a"), list("aa ab ba"), list("a ab ba"), list("a ab bb"), list("a ba bba"), list("a b c"), list("a aa aaa aaaa"), twelve(), slices.Repeat(list("b a"), 20), make([]string, 60)) {
+		for _, l := range append(noSets, nil, list("a"), list("a b ab"), list("ab a b a"), list("aa ab ba"), list("a ab ba"), list("a ab bb"), list("a ba bba"), list("a bb"), list("a bba bbbb"), list("a b c"), list("a aa aaa aaaa"), twelve(), slices.Repeat(list("b a"), 20), make([]string, 60)) {
 			pool = append(pool, roomy(l, "MARK"))
 		}
 	case reflect.TypeFor[[]int]():
@@ -235,8 +247,9 @@ func TestEveryFunctionAcceptsAllArguments(t *testing.T) {
 // Both arguments may be one and the same slice.
 func TestEveryFunctionAcceptsOneListTwice(t *testing.T) {
 	for _, v := range poolOf(t, reflect.TypeFor[[]string]()) {
-		for name, f := range map[string]any{"JoinSets": impl.JoinSets, "LeftQuotient": impl.LeftQuotient} {
+		for name, f := range map[string]any{"JoinSets": impl.JoinSets, "LeftQuotient": impl.LeftQuotient, "ReplaceLetters": impl.ReplaceLetters, "FactorOver": impl.FactorOver} {
 			checkCall(t, name, reflect.ValueOf(f), []reflect.Value{v, v})
 		}
+		checkCall(t, "PutBehind", reflect.ValueOf(impl.PutBehind), []reflect.Value{v, reflect.ValueOf(0), v})
 	}
 }
