@@ -71,6 +71,19 @@ var functions = map[string]any{
 	"CountCompletePrefix": impl.CountCompletePrefix,
 	"AllCompletePrefix":   impl.AllCompletePrefix,
 	"ShrinkPrefix":        impl.ShrinkPrefix,
+
+	"StatesOf":         impl.StatesOf,
+	"StateAfter":       impl.StateAfter,
+	"IsStepWord":       impl.IsStepWord,
+	"ShortestStepWord": impl.ShortestStepWord,
+	"MeetingWord":      impl.MeetingWord,
+	"CommonDivisor":    impl.CommonDivisor,
+	"CanBeInStep":      impl.CanBeInStep,
+	"IsCommaFree":      impl.IsCommaFree,
+	"FirstInside":      impl.FirstInside,
+	"CountTurnedWords": impl.CountTurnedWords,
+	"FirstCommaFree":   impl.FirstCommaFree,
+	"StatesBehind":     impl.StatesBehind,
 }
 
 const spare = 3
@@ -97,7 +110,7 @@ func poolOf(t *testing.T, kind reflect.Type) []reflect.Value {
 			pool = append(pool, n)
 		}
 	case reflect.TypeFor[[]string]():
-		for _, l := range append(noSets, nil, list("a"), list("a b ab"), list("ab a b a"), list("aa ab ba"), list("a ab ba"), list("a ab bb"), list("a ba bba"), list("a bb"), list("a bba bbbb"), list("a b c"), list("a aa aaa aaaa"), twelve(), slices.Repeat(list("b a"), 20), make([]string, 60)) {
+		for _, l := range append(noSets, nil, list("a"), list("a b ab"), list("ab a b a"), list("aa ab ba"), list("a ab ba"), list("a ab bb"), list("a ba bb"), list("a ba bba"), list("aa ab ba bb"), list("a bb"), list("a bba bbbb"), list("a b c"), list("a aa aaa aaaa"), twelve(), slices.Repeat(list("b a"), 20), make([]string, 60)) {
 			pool = append(pool, roomy(l, "MARK"))
 		}
 	case reflect.TypeFor[[]int]():
