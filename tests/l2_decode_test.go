@@ -62,6 +62,21 @@ func messagesByWord(set []string, n int) map[string][][]int {
 	return all
 }
 
+// restsBehind lists what can be left of a word behind a letter, if what is left in front of it is told: nothing, if a word begins with the letter.
+func restsBehind(set []string, left string, letter string) []string {
+	words := []string{left}
+	if left == "" {
+		words = set
+	}
+	var found []string
+	for _, word := range words {
+		if rest, begins := strings.CutPrefix(word, letter); begins {
+			found = append(found, rest)
+		}
+	}
+	return found
+}
+
 // firstDouble reads two messages letter by letter, and lists what is left of their words, until both end together.
 func firstDouble(set []string) (string, bool) {
 	type pair struct{ one, other string }
@@ -76,31 +91,18 @@ func firstDouble(set []string) (string, bool) {
 			reached[p] = s
 		}
 	}
-	rests := func(left string, letter string) []string {
-		words := []string{left}
-		if left == "" {
-			words = set
-		}
-		var found []string
-		for _, word := range words {
-			if rest, begins := strings.CutPrefix(word, letter); begins {
-				found = append(found, rest)
-			}
-		}
-		return found
-	}
 	step := func(left pair, s string) {
 		for _, letter := range list("a b c") {
-			for _, one := range rests(left.one, letter) {
-				for _, other := range rests(left.other, letter) {
+			for _, one := range restsBehind(set, left.one, letter) {
+				for _, other := range restsBehind(set, left.other, letter) {
 					reach(pair{one, other}, s+letter)
 				}
 			}
 		}
 	}
 	for _, letter := range list("a b c") {
-		for _, one := range rests("", letter) {
-			for _, other := range rests("", letter) {
+		for _, one := range restsBehind(set, "", letter) {
+			for _, other := range restsBehind(set, "", letter) {
 				if one != other {
 					reach(pair{one, other}, letter)
 				}

@@ -84,6 +84,19 @@ var functions = map[string]any{
 	"CountTurnedWords": impl.CountTurnedWords,
 	"FirstCommaFree":   impl.FirstCommaFree,
 	"StatesBehind":     impl.StatesBehind,
+
+	"LeastGenerators": impl.LeastGenerators,
+	"WrittenUpTo":     impl.WrittenUpTo,
+	"MeetGenerators":  impl.MeetGenerators,
+	"FreeHull":        impl.FreeHull,
+	"HullSteps":       impl.HullSteps,
+	"CanMeet":         impl.CanMeet,
+	"RootOf":          impl.RootOf,
+	"IsPrimitive":     impl.IsPrimitive,
+	"TurnsOf":         impl.TurnsOf,
+	"AreTurns":        impl.AreTurns,
+	"CommonRoot":      impl.CommonRoot,
+	"PeriodsOf":       impl.PeriodsOf,
 }
 
 const spare = 3
@@ -264,5 +277,6 @@ func TestEveryFunctionAcceptsOneListTwice(t *testing.T) {
 			checkCall(t, name, reflect.ValueOf(f), []reflect.Value{v, v})
 		}
 		checkCall(t, "PutBehind", reflect.ValueOf(impl.PutBehind), []reflect.Value{v, reflect.ValueOf(0), v})
+		checkCall(t, "MeetGenerators", reflect.ValueOf(impl.MeetGenerators), []reflect.Value{v, v, reflect.ValueOf(4)})
 	}
 }
