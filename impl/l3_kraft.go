@@ -78,13 +78,13 @@ func divisorOf(a int, b int) int {
 	return a
 }
 
-// partsOf returns what a length adds to a sum of which wholeOf is 1.
+// partsOf returns what a length adds to a sum of which wholeOf is 1; chapter 7 has lengths up to MaxDeep.
 func partsOf(length int, letters int) int {
-	return power(letters, MaxLength-length)
+	return power(letters, MaxDeep-length)
 }
 
 func wholeOf(letters int) int {
-	return power(letters, MaxLength)
+	return power(letters, MaxDeep)
 }
 
 // allPartsOf returns Kraft's sum, of which wholeOf is 1.

@@ -97,6 +97,21 @@ var functions = map[string]any{
 	"AreTurns":        impl.AreTurns,
 	"CommonRoot":      impl.CommonRoot,
 	"PeriodsOf":       impl.PeriodsOf,
+
+	"CostOf":         impl.CostOf,
+	"MergeRun":       impl.MergeRun,
+	"BestCost":       impl.BestCost,
+	"FirstBest":      impl.FirstBest,
+	"CountBest":      impl.CountBest,
+	"AreBest":        impl.AreBest,
+	"BestWithin":     impl.BestWithin,
+	"WordsFor":       impl.WordsFor,
+	"OrderedCost":    impl.OrderedCost,
+	"OrderedLengths": impl.OrderedLengths,
+	"CanBeOrdered":   impl.CanBeOrdered,
+	"OrderedWords":   impl.OrderedWords,
+	"EvenCost":       impl.EvenCost,
+	"SplitCost":      impl.SplitCost,
 }
 
 const spare = 3
@@ -119,7 +134,7 @@ func poolOf(t *testing.T, kind reflect.Type) []reflect.Value {
 			pool = append(pool, s)
 		}
 	case reflect.TypeFor[int]():
-		for _, n := range []int{-1 << 63, -1, 0, 1, 2, 3, 6, 7, 8, 9, 10, 12, 13, 20, 21, 40, 41, 60, 61, 1<<63 - 1} {
+		for _, n := range []int{-1 << 63, -1, 0, 1, 2, 3, 6, 7, 8, 9, 10, 11, 12, 13, 20, 21, 40, 41, 60, 61, 1000000, 1000001, 1<<63 - 1} {
 			pool = append(pool, n)
 		}
 	case reflect.TypeFor[[]string]():
@@ -127,7 +142,7 @@ func poolOf(t *testing.T, kind reflect.Type) []reflect.Value {
 			pool = append(pool, roomy(l, "MARK"))
 		}
 	case reflect.TypeFor[[]int]():
-		for _, l := range [][]int{nil, {0}, {0, 1, 2}, {2, 0, 1}, {2, 1, 0}, {0, 1, 3}, {-1, 0, 1}, {0, 0, 0}, {0, 2}, {1, 0}, {12}, {1}, {1, 1}, {1, 2, 3}, {1, 2, 3, 4, 5, 6, 7, 8, 8, 8}, {3, 2, 1}, {9}, slices.Repeat([]int{8}, 12), slices.Repeat([]int{8}, 13), {-1 << 63, 1<<63 - 1, 0}, make([]int, 60), make([]int, 61), make([]int, 100)} {
+		for _, l := range [][]int{nil, {0}, {0, 1, 2}, {2, 0, 1}, {2, 1, 0}, {0, 1, 3}, {-1, 0, 1}, {0, 0, 0}, {0, 2}, {1, 0}, {12}, {1}, {1, 1}, {1, 2, 3}, {1, 2, 3, 4, 5, 6, 7, 8, 8, 8}, {3, 2, 1}, {9}, {11}, {1, 2, 1}, {2, 1, 2}, {1, 1, 2, 4}, {3, 3, 2, 1}, {6, 5, 4, 3, 2, 1}, {1, 2, 3, 4, 5, 6, 7}, {100}, {1, 101}, slices.Repeat([]int{100}, 12), slices.Repeat([]int{100}, 13), slices.Repeat([]int{11}, 12), slices.Repeat([]int{8}, 12), slices.Repeat([]int{8}, 13), {-1 << 63, 1<<63 - 1, 0}, make([]int, 60), make([]int, 61), make([]int, 100)} {
 			pool = append(pool, roomy(l, -77))
 		}
 	default:
@@ -278,5 +293,9 @@ func TestEveryFunctionAcceptsOneListTwice(t *testing.T) {
 		}
 		checkCall(t, "PutBehind", reflect.ValueOf(impl.PutBehind), []reflect.Value{v, reflect.ValueOf(0), v})
 		checkCall(t, "MeetGenerators", reflect.ValueOf(impl.MeetGenerators), []reflect.Value{v, v, reflect.ValueOf(4)})
+	}
+	for _, v := range poolOf(t, reflect.TypeFor[[]int]()) {
+		checkCall(t, "CostOf", reflect.ValueOf(impl.CostOf), []reflect.Value{v, v})
+		checkCall(t, "AreBest", reflect.ValueOf(impl.AreBest), []reflect.Value{v, v, reflect.ValueOf(2)})
 	}
 }
