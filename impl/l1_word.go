@@ -33,6 +33,14 @@ func (w word) length() int {
 	return len(w)
 }
 
+func (w word) letterNumbers() []int {
+	numbers := make([]int, MaxLetters)
+	for i := range numbers {
+		numbers[i] = strings.Count(string(w), alphabet[i:i+1])
+	}
+	return numbers
+}
+
 func (w word) backwards() string {
 	letters := []byte(w)
 	slices.Reverse(letters)
@@ -147,11 +155,7 @@ func LettersOf(s string) ([]int, bool) {
 	if !IsWord(s) {
 		return nil, false
 	}
-	numbers := make([]int, MaxLetters)
-	for i := range numbers {
-		numbers[i] = strings.Count(s, alphabet[i:i+1])
-	}
-	return numbers, true
+	return word(s).letterNumbers(), true
 }
 
 // LessWord reports whether s comes before t in the order.

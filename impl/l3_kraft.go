@@ -78,6 +78,12 @@ func divisorOf(a int, b int) int {
 	return a
 }
 
+// ratioOf requires parts that are not negative, and a whole that is greater than 0.
+func ratioOf(parts int, whole int) Ratio {
+	divisor := divisorOf(parts, whole)
+	return Ratio{parts / divisor, whole / divisor}
+}
+
 // partsOf returns what a length adds to a sum of which wholeOf is 1; chapter 7 has lengths up to MaxDeep.
 func partsOf(length int, letters int) int {
 	return power(letters, MaxDeep-length)
@@ -100,9 +106,7 @@ func sumOf(source lengthSource, letters int) (Ratio, bool) {
 	if !isValid(source, letters) {
 		return Ratio{}, false
 	}
-	parts, whole := allPartsOf(source, letters), wholeOf(letters)
-	divisor := divisorOf(parts, whole)
-	return Ratio{parts / divisor, whole / divisor}, true
+	return ratioOf(allPartsOf(source, letters), wholeOf(letters)), true
 }
 
 // KraftSum returns Kraft's sum of a set.

@@ -112,6 +112,18 @@ var functions = map[string]any{
 	"OrderedWords":   impl.OrderedWords,
 	"EvenCost":       impl.EvenCost,
 	"SplitCost":      impl.SplitCost,
+
+	"LetterCounts":    impl.LetterCounts,
+	"AreLetterAlike":  impl.AreLetterAlike,
+	"WeightOf":        impl.WeightOf,
+	"WeightedSum":     impl.WeightedSum,
+	"FirstTooHeavy":   impl.FirstTooHeavy,
+	"MeanLength":      impl.MeanLength,
+	"InnerWeight":     impl.InnerWeight,
+	"CountByLetters":  impl.CountByLetters,
+	"CountWithCounts": impl.CountWithCounts,
+	"PrefixAlike":     impl.PrefixAlike,
+	"IsFullCode":      impl.IsFullCode,
 }
 
 const spare = 3
@@ -138,11 +150,11 @@ func poolOf(t *testing.T, kind reflect.Type) []reflect.Value {
 			pool = append(pool, n)
 		}
 	case reflect.TypeFor[[]string]():
-		for _, l := range append(noSets, nil, list("a"), list("a b ab"), list("ab a b a"), list("aa ab ba"), list("a ab ba"), list("a ab bb"), list("a ba bb"), list("a ba bba"), list("aa ab ba bb"), list("a bb"), list("a bba bbbb"), list("a b c"), list("a aa aaa aaaa"), twelve(), slices.Repeat(list("b a"), 20), make([]string, 60)) {
+		for _, l := range append(noSets, nil, list("a"), list("a b ab"), list("ab a b a"), list("aa ab ba"), list("a ab ba"), list("a ab bb"), list("a ba bb"), list("a ba bba"), list("aa ab ba bb"), list("a bb"), list("a bba bbbb"), list("a b c"), list("a aa aaa aaaa"), list("aa ab ac bb bbc bcc"), list("aaaaaaa bbbbbbbb"), twelve(), slices.Repeat(list("b a"), 20), make([]string, 60)) {
 			pool = append(pool, roomy(l, "MARK"))
 		}
 	case reflect.TypeFor[[]int]():
-		for _, l := range [][]int{nil, {0}, {0, 1, 2}, {2, 0, 1}, {2, 1, 0}, {0, 1, 3}, {-1, 0, 1}, {0, 0, 0}, {0, 2}, {1, 0}, {12}, {1}, {1, 1}, {1, 2, 3}, {1, 2, 3, 4, 5, 6, 7, 8, 8, 8}, {3, 2, 1}, {9}, {11}, {1, 2, 1}, {2, 1, 2}, {1, 1, 2, 4}, {3, 3, 2, 1}, {6, 5, 4, 3, 2, 1}, {1, 2, 3, 4, 5, 6, 7}, {100}, {1, 101}, slices.Repeat([]int{100}, 12), slices.Repeat([]int{100}, 13), slices.Repeat([]int{11}, 12), slices.Repeat([]int{8}, 12), slices.Repeat([]int{8}, 13), {-1 << 63, 1<<63 - 1, 0}, make([]int, 60), make([]int, 61), make([]int, 100)} {
+		for _, l := range [][]int{nil, {0}, {0, 1, 2}, {2, 0, 1}, {2, 1, 0}, {0, 1, 3}, {-1, 0, 1}, {0, 0, 0}, {0, 2}, {1, 0}, {12}, {1}, {1, 1}, {1, 2, 3}, {1, 2, 3, 4, 5, 6, 7, 8, 8, 8}, {3, 2, 1}, {9}, {11}, {1, 2, 1}, {2, 1, 2}, {1, 1, 2, 4}, {3, 3, 2, 1}, {6, 5, 4, 3, 2, 1}, {1, 2, 3, 4, 5, 6, 7}, {100}, {1, 101}, slices.Repeat([]int{100}, 12), slices.Repeat([]int{100}, 13), slices.Repeat([]int{11}, 12), slices.Repeat([]int{8}, 12), slices.Repeat([]int{8}, 13), {1, 1, 0}, {0, 0, 10}, {0, 11, 0}, {4, 4, 4}, {13, 0, 0}, {-1 << 63, 1<<63 - 1, 0}, {1<<63 - 1, 1<<63 - 1, 3}, make([]int, 60), make([]int, 61), make([]int, 100)} {
 			pool = append(pool, roomy(l, -77))
 		}
 	default:
@@ -288,7 +300,7 @@ func TestEveryFunctionAcceptsAllArguments(t *testing.T) {
 // Both arguments may be one and the same slice.
 func TestEveryFunctionAcceptsOneListTwice(t *testing.T) {
 	for _, v := range poolOf(t, reflect.TypeFor[[]string]()) {
-		for name, f := range map[string]any{"JoinSets": impl.JoinSets, "LeftQuotient": impl.LeftQuotient, "ReplaceLetters": impl.ReplaceLetters, "FactorOver": impl.FactorOver} {
+		for name, f := range map[string]any{"JoinSets": impl.JoinSets, "LeftQuotient": impl.LeftQuotient, "ReplaceLetters": impl.ReplaceLetters, "FactorOver": impl.FactorOver, "AreLetterAlike": impl.AreLetterAlike} {
 			checkCall(t, name, reflect.ValueOf(f), []reflect.Value{v, v})
 		}
 		checkCall(t, "PutBehind", reflect.ValueOf(impl.PutBehind), []reflect.Value{v, reflect.ValueOf(0), v})
