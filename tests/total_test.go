@@ -124,6 +124,17 @@ var functions = map[string]any{
 	"CountWithCounts": impl.CountWithCounts,
 	"PrefixAlike":     impl.PrefixAlike,
 	"IsFullCode":      impl.IsFullCode,
+
+	"RestsAfter":    impl.RestsAfter,
+	"HasDelay":      impl.HasDelay,
+	"DelayOf":       impl.DelayOf,
+	"DelayBack":     impl.DelayBack,
+	"PairWaiting":   impl.PairWaiting,
+	"IsBeginning":   impl.IsBeginning,
+	"FirstWords":    impl.FirstWords,
+	"DecidedWords":  impl.DecidedWords,
+	"RestUndecided": impl.RestUndecided,
+	"MissingBehind": impl.MissingBehind,
 }
 
 const spare = 3
@@ -142,7 +153,7 @@ func poolOf(t *testing.T, kind reflect.Type) []reflect.Value {
 	var pool []any
 	switch kind {
 	case reflect.TypeFor[string]():
-		for _, s := range append(noWordTexts, "", "a", "abaab", "a,b,ab", "-", ",", "b,a", "aba", "aaaa", strings.Repeat("a", 60), strings.Repeat("abc", 20), strings.Repeat(",", 1000)) {
+		for _, s := range append(noWordTexts, "", "a", "abaab", "a,b,ab", "-", ",", "b,a", "aba", "baa", "aaaa", strings.Repeat("a", 60), strings.Repeat("abc", 20), strings.Repeat(",", 1000)) {
 			pool = append(pool, s)
 		}
 	case reflect.TypeFor[int]():
@@ -150,7 +161,7 @@ func poolOf(t *testing.T, kind reflect.Type) []reflect.Value {
 			pool = append(pool, n)
 		}
 	case reflect.TypeFor[[]string]():
-		for _, l := range append(noSets, nil, list("a"), list("a b ab"), list("ab a b a"), list("aa ab ba"), list("a ab ba"), list("a ab bb"), list("a ba bb"), list("a ba bba"), list("aa ab ba bb"), list("a bb"), list("a bba bbbb"), list("a b c"), list("a aa aaa aaaa"), list("aa ab ac bb bbc bcc"), list("aaaaaaa bbbbbbbb"), twelve(), slices.Repeat(list("b a"), 20), make([]string, 60)) {
+		for _, l := range append(noSets, nil, list("a"), list("a b ab"), list("ab a b a"), list("aa ab ba"), list("a ab ba"), list("a ab bb"), list("a ba bb"), list("a ba bba"), list("aa ab ba bb"), list("a bb"), list("a bba bbbb"), list("a b c"), list("a aa aaa aaaa"), list("aa ab ac bb bbc bcc"), list("aaaaaaa bbbbbbbb"), list("a ab"), list(slowTwentyOne), list(missingTwelve), twelve(), slices.Repeat(list("b a"), 20), make([]string, 60)) {
 			pool = append(pool, roomy(l, "MARK"))
 		}
 	case reflect.TypeFor[[]int]():
